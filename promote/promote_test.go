@@ -55,7 +55,7 @@ func numbers() []int64 {
 	return out
 }
 
-// rounded is what P5.1 says of fewer than 64 digits that are dropped, worked out by numbers that have no range.
+// rounded is what P5.1 says, worked out by numbers that have no range.
 func rounded(u uint64, drop uint) uint64 {
 	unit := new(big.Int).Lsh(big.NewInt(1), drop)
 	left, dropped := new(big.Int).QuoRem(new(big.Int).SetUint64(u), unit, new(big.Int))
@@ -113,27 +113,63 @@ func TestRoundOfGivenNumbers(t *testing.T) {
 	}
 }
 
-// P5.1: no digits are dropped, or none are left.
-func TestRoundOfNoDigitsAndOfAll(t *testing.T) {
+// P5.1: no digits are dropped.
+func TestRoundOfNoDigits(t *testing.T) {
 	some := random(1)
-	us := []uint64{0, 1, 2, 3, 1<<62 + 1, 1<<63 - 1, 1 << 63, 1<<63 + 1, math.MaxUint64 - 1, math.MaxUint64}
+	for _, u := range edges() {
+		checkRound(t, u, 0, u)
+	}
+	for range 1000 {
+		u := some()
+		checkRound(t, u, 0, u)
+	}
+}
+
+// edges are the ends of the range, and what is next to its half.
+func edges() []uint64 {
+	return []uint64{0, 1, 2, 3, 1<<62 + 1, 1<<63 - 1, 1 << 63, 1<<63 + 1, math.MaxUint64 - 1, math.MaxUint64}
+}
+
+// P5.1: just as many digits are dropped as there are: 0 is left, and is rounded up by more than half of 2^64, but not by half, as it is even.
+func TestRoundOfAllDigits(t *testing.T) {
+	const half = 1 << 63
+	for _, u := range []uint64{0, 1, 2, 3, half / 2, half/2 + 1, half - 2, half - 1, half} {
+		checkRound(t, u, 64, 0)
+	}
+	for _, u := range []uint64{half + 1, half + 2, half + half/2, math.MaxUint64 - 1, math.MaxUint64} {
+		checkRound(t, u, 64, 1)
+	}
+	some := random(6)
+	for range 1000 {
+		u := some()
+		checkRound(t, u%half, 64, 0)
+		checkRound(t, u%(half-1)+half+1, 64, 1)
+	}
+}
+
+// P5.1: more digits are dropped than there are: what is dropped is never more than half, and 0 is even.
+func TestRoundOfMoreThanAllDigits(t *testing.T) {
+	some := random(7)
+	us := edges()
 	for range 1000 {
 		us = append(us, some())
 	}
 	for _, u := range us {
-		checkRound(t, u, 0, u)
-		for _, drop := range []uint{64, 65, 66, 127, 128, 129, 255, 256, 1 << 16, 1 << 31, math.MaxUint32, 1 << 32, 1<<32 + 1, 1 << 63, math.MaxUint - 1, math.MaxUint} {
+		for _, drop := range []uint{65, 66, 67, 127, 128, 129, 255, 256, 1 << 16, 1 << 31, math.MaxUint32, 1 << 32, 1<<32 + 1, 1<<32 + 64, 1 << 63, 1<<63 + 64, math.MaxUint - 1, math.MaxUint} {
 			checkRound(t, u, drop, 0)
+		}
+		for drop := uint(64); drop < 130; drop++ {
+			checkRound(t, u, drop, rounded(u, drop))
 		}
 	}
 }
 
-// P5.1: for each count of digits, halves and what is next to them, behind a last digit of 0 and of 1, and any numbers.
+// P5.1: for each count of digits, all of them too, halves and what is next to them, behind a last digit of 0 and of 1, and any numbers.
 func TestRoundOfEachCount(t *testing.T) {
 	some := random(2)
-	for drop := uint(1); drop < 64; drop++ {
-		unit := uint64(1) << drop
-		half := unit / 2
+	for drop := uint(1); drop <= 64; drop++ {
+		half := uint64(1) << (drop - 1)
+		last := half - 1 + half // the greatest that may be dropped
 		most := uint64(math.MaxUint64) >> drop
 		for _, left := range []uint64{0, 1, 2, 3, some(), some() | 1, most - 1, most} {
 			left &= most
@@ -143,7 +179,7 @@ func TestRoundOfEachCount(t *testing.T) {
 			checkRound(t, least+half, drop, left+left%2)
 			if drop > 1 { // one digit is never more than half
 				checkRound(t, least+half+1, drop, left+1)
-				checkRound(t, least+unit-1, drop, left+1)
+				checkRound(t, least+last, drop, left+1)
 			}
 		}
 		for range 500 {
