@@ -3,6 +3,7 @@ package load_test
 import (
 	"fmt"
 	"math"
+	"slices"
 	"strings"
 	"testing"
 
@@ -48,15 +49,64 @@ func TestNotSound(t *testing.T) {
 	for _, s := range []api.Schema{
 		{Nodes: []api.Node{{Kind: api.Union, Branches: []int{1, 2}}, {Kind: api.Int}, {Kind: api.Int}}}, {Nodes: []api.Node{{Kind: api.Union, Branches: []int{1}}, {Kind: api.Union, Branches: []int{2}}, {Kind: api.Int}}}, {Nodes: []api.Node{{Kind: api.Union}}}, {Nodes: []api.Node{{Kind: api.Array}}},
 		{Nodes: []api.Node{{Kind: api.Record, Name: "r", Fields: []api.Field{{Name: "f"}}}}}, {Nodes: []api.Node{{Kind: api.Int}, {Kind: api.Int}}}, {Nodes: []api.Node{{Kind: api.Int}}, Root: 1}, {Nodes: []api.Node{{Kind: api.Int}, {Kind: api.Array}}, Root: 1}, {Nodes: []api.Node{{Kind: api.Int}}, Root: -1},
-		nested(33), wide(201),
+		nested(33), wide(201), flat(41), chosen(41), choice(11), heavy(1001),
 	} {
 		if schema.Right(s) {
 			t.Fatalf("%s may be", said(s))
 		}
 		checkSound(t, s, false)
 	}
-	checkSound(t, nested(32), true)
-	checkSound(t, wide(200), true)
+	for _, s := range []api.Schema{nested(32), wide(200), flat(40), chosen(40), choice(10), heavy(1000)} {
+		checkSound(t, s, true)
+	}
+}
+
+// flat is a record of so many fields.
+func flat(many int) api.Schema {
+	s := api.Schema{Nodes: []api.Node{{Kind: api.Record, Name: "r"}}}
+	for n := range many {
+		s.Nodes[0].Fields = append(s.Nodes[0].Fields, api.Field{Name: fmt.Sprint("f", n), Type: n + 1})
+		s.Nodes = append(s.Nodes, api.Node{Kind: api.Int})
+	}
+	return s
+}
+
+// chosen is an enum of so many symbols.
+func chosen(many int) api.Schema {
+	n := api.Node{Kind: api.Enum, Name: "e"}
+	for at := range many {
+		n.Symbols = append(n.Symbols, fmt.Sprint("S", at))
+	}
+	return api.Schema{Nodes: []api.Node{n}}
+}
+
+// choice is a union of so many branches.
+func choice(many int) api.Schema {
+	s := api.Schema{Nodes: []api.Node{{Kind: api.Union}}}
+	for at := range many {
+		s.Nodes[0].Branches = append(s.Nodes[0].Branches, at+1)
+		s.Nodes = append(s.Nodes, api.Node{Kind: api.Fixed, Name: fmt.Sprint("x", at)})
+	}
+	return s
+}
+
+// heavy is a record that weighs so much: 37 times one that weighs 27, and what is left by other fields.
+func heavy(weight int) api.Schema {
+	s := flat(26)
+	s.Nodes[0].Name = "i"
+	for at := range s.Nodes[0].Fields {
+		s.Nodes[0].Fields[at].Type++
+	}
+	outer := api.Node{Kind: api.Record, Name: "o"}
+	for n := range 37 {
+		outer.Fields = append(outer.Fields, api.Field{Name: fmt.Sprint("f", n), Type: 1})
+	}
+	s.Nodes = slices.Insert(s.Nodes, 0, outer)
+	for n := range weight - 1000 {
+		s.Nodes[0].Fields = append(s.Nodes[0].Fields, api.Field{Name: fmt.Sprint("g", n), Type: len(s.Nodes)})
+		s.Nodes = append(s.Nodes, api.Node{Kind: api.Int})
+	}
+	return s
 }
 
 // nested is an Int in so many arrays.
